@@ -65,8 +65,9 @@ func (l row) check() api.Fault {
 // reader collects the cards of a source text.
 type reader struct {
 	cards []Card
-	text  []byte // that of the last card, which is not in the card before it is complete: a string would be copied for each part
-	open  bool   // the text is open
+	text  []byte  // that of the last card, which is not in the card before it is complete: a string would be copied for each part
+	open  bool    // the text is open
+	last  api.Pos // where the part that was added last begins: the last Mark does not tell, as an empty part has none
 	opens func(part string) bool
 }
 
@@ -100,7 +101,7 @@ func (r *reader) resume(l row) api.Fault {
 // add appends the part of a line that begins in a column.
 func (r *reader) add(l row, column int) {
 	part := l.from(column)
-	r.open = r.opens(part)
+	r.open, r.last = r.opens(part), l.at(column)
 	if r.open {
 		part += strings.Repeat(" ", lastColumn+1-column-len(part))
 	} else {
@@ -110,7 +111,7 @@ func (r *reader) add(l row, column int) {
 		return
 	}
 	c := &r.cards[len(r.cards)-1]
-	c.Marks = append(c.Marks, Mark{From: len(r.text), At: l.at(column)})
+	c.Marks = append(c.Marks, Mark{From: len(r.text), At: r.last})
 	r.text = append(r.text, part...)
 }
 
@@ -119,11 +120,10 @@ func (r *reader) finish() api.Fault {
 	if len(r.cards) == 0 {
 		return api.Fault{}
 	}
-	c := &r.cards[len(r.cards)-1]
 	if r.open {
-		// The last Mark, as a part that is empty has no first column.
-		return api.Fault{E: api.ErrForm, At: c.Marks[len(c.Marks)-1].At}
+		return api.Fault{E: api.ErrForm, At: r.last}
 	}
+	c := &r.cards[len(r.cards)-1]
 	c.Text = string(r.text)
 	c.Marks = slices.Clip(c.Marks)
 	r.text = r.text[:0]

@@ -173,8 +173,31 @@ func TestReadEmptyPart(t *testing.T) {
 	head := lines(at(' ', 71, `"A`), at('-', 72, `"`))
 	checkRead(t, lines(head, at('-', 12, `"B"`)), false, card(false, `"AB"`, Mark{0, pos(1, 71)}, Mark{2, pos(3, 13)}))
 	checkRead(t, lines(head+"IGNORED", at('-', 12, `"B"`)), false, card(false, `"AB"`, Mark{0, pos(1, 71)}, Mark{2, pos(3, 13)}))
-	checkFault(t, head, false, fault(api.ErrForm, 1, 71))
-	checkFault(t, lines(head, at(' ', 12, "X")), false, fault(api.ErrForm, 1, 71))
+	checkRead(t, lines(head, at('-', 72, q), at('-', 12, `"B"`)), false, card(false, `"AB"`, Mark{0, pos(1, 71)}, Mark{2, pos(4, 13)}))
+}
+
+// A part that is empty begins behind its quote, in column 73, and is the last one that was added, as any other.
+func TestReadEmptyPartNotContinued(t *testing.T) {
+	open, empty := at(' ', 12, `A "B`), at('-', 72, q)
+	head := lines(open, empty)
+	for _, next := range []string{"", "IGNORED", "\n", "\n\n", "\n" + at('*', 8, "X") + "\n", "\n" + at('-', 12, " "), "\n" + at('D', 12, "X"), "\n" + at(' ', 12, "MOVE"), "\n\n" + at(' ', 8, q), "\n" + at(' ', 12, "X") + "\n" + at('-', 12, `"C"`)} {
+		checkFault(t, head+next, false, fault(api.ErrForm, 2, 73))
+	}
+	checkFault(t, lines(head, at('D', 12, "X")), true, fault(api.ErrForm, 2, 73))
+	// Several of them, and one of them before or behind a part that is not empty.
+	checkFault(t, lines(head, empty), false, fault(api.ErrForm, 3, 73))
+	checkFault(t, lines(head, "", empty, at('/', 8, "X"), empty, "", at(' ', 12, "X")), false, fault(api.ErrForm, 6, 73))
+	checkFault(t, lines(head, at('-', 71, `"X`)), false, fault(api.ErrForm, 3, 72))
+	checkFault(t, lines(open, at('-', 71, `"X`), at('*', 8, "X"), empty), false, fault(api.ErrForm, 4, 73))
+	// In a card behind others, also those that have such a part themselves.
+	closed := lines(head, at('-', 12, `"C"`))
+	checkFault(t, lines(closed, head), false, fault(api.ErrForm, 5, 73))
+	checkFault(t, lines(closed, open), false, fault(api.ErrForm, 4, 12))
+	// A line that continues it has its own faults, and the first ones of any line are found before.
+	checkFault(t, lines(head, at('-', 20, "C")), false, fault(api.ErrForm, 3, 20))
+	checkFault(t, lines(head, at('-', 11, `"C"`)), false, fault(api.ErrForm, 3, 11))
+	checkFault(t, lines(head, at(' ', 12, "\x00")), false, fault(api.ErrForm, 3, 12))
+	checkFault(t, lines(head, at('X', 12, "X")), false, fault(api.ErrForm, 3, 7))
 }
 
 func TestReadLimits(t *testing.T) {
