@@ -158,11 +158,11 @@ func TestLinesDoNotMatter(t *testing.T) {
 func TestSplitIsJoinedAgain(t *testing.T) {
 	r := rand.New(rand.NewSource(3))
 	for range 20000 {
-		l := append(randomTokens(r), tok(api.Period, ""))
+		l := append(randomTokens(r), tok(api.Period, "."))
 		var again []api.Token
 		for _, part := range Split(l) {
 			again = append(again, part...)
-			again = append(again, tok(api.Period, ""))
+			again = append(again, tok(api.Period, "."))
 		}
 		if !Same(l, again) {
 			t.Fatalf("%s\n%s", show(l), show(again))

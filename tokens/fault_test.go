@@ -151,19 +151,19 @@ func TestSource(t *testing.T) {
 	got, f := Source(text, false)
 	want := []api.Token{
 		{Kind: api.Word, Text: "MAIN", At: pos(1, 8), Left: true},
-		{Kind: api.Period, At: pos(1, 12)},
+		{Kind: api.Period, Text: ".", At: pos(1, 12)},
 		{Kind: api.Word, Text: "MOVE", At: pos(3, 12)},
 		{Kind: api.Quote, Text: "A" + spaces(54) + "B", At: pos(3, 17)},
 		{Kind: api.Word, Text: "TO", At: pos(4, 16)},
 		{Kind: api.Word, Text: "X-1", At: pos(4, 19)},
 		{Kind: api.Word, Text: "Y", At: pos(5, 15)},
-		{Kind: api.Period, At: pos(5, 16)},
+		{Kind: api.Period, Text: ".", At: pos(5, 16)},
 	}
 	if f != (api.Fault{}) || !reflect.DeepEqual(got, want) || len(got) != cap(got) {
 		t.Errorf("%+v, %v", got, f)
 	}
 	got, f = Source(text, true)
-	want = append(want, api.Token{Kind: api.Word, Text: "STOP", At: pos(6, 12)}, api.Token{Kind: api.Word, Text: "RUN", At: pos(6, 17)}, api.Token{Kind: api.Period, At: pos(6, 20)})
+	want = append(want, api.Token{Kind: api.Word, Text: "STOP", At: pos(6, 12)}, api.Token{Kind: api.Word, Text: "RUN", At: pos(6, 17)}, api.Token{Kind: api.Period, Text: ".", At: pos(6, 20)})
 	if f != (api.Fault{}) || !reflect.DeepEqual(got, want) {
 		t.Errorf("with debugging lines: %+v, %v", got, f)
 	}
@@ -171,6 +171,23 @@ func TestSource(t *testing.T) {
 		if got, f := Source(s, true); len(got) != 0 || f != (api.Fault{}) {
 			t.Errorf("%q: %v, %v", s, got, f)
 		}
+	}
+}
+
+func TestSourceOfPeriodsAndPseudos(t *testing.T) {
+	// The second Pseudo is divided between two lines.
+	got, f := Source("       .\n           ==A=\n      -      = PIC X.\n", false)
+	want := []api.Token{
+		{Kind: api.Period, Text: ".", At: pos(1, 8), Left: true},
+		{Kind: api.Pseudo, Text: "==", At: pos(2, 12)},
+		{Kind: api.Word, Text: "A", At: pos(2, 14)},
+		{Kind: api.Pseudo, Text: "==", At: pos(2, 15)},
+		{Kind: api.Word, Text: "PIC", At: pos(3, 16)},
+		{Kind: api.Picture, Text: "X", At: pos(3, 20)},
+		{Kind: api.Period, Text: ".", At: pos(3, 21)},
+	}
+	if f != (api.Fault{}) || !reflect.DeepEqual(got, want) {
+		t.Errorf("%+v, %v", got, f)
 	}
 }
 

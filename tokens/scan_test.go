@@ -1,6 +1,7 @@
 package tokens
 
 import (
+	"slices"
 	"strings"
 	"testing"
 
@@ -10,12 +11,15 @@ import (
 
 var kinds = map[api.Kind]string{api.Word: "Word", api.Number: "Number", api.Quote: "Quote", api.Picture: "Picture", api.Sign: "Sign", api.Period: "Period", api.Pseudo: "Pseudo"}
 
-// show lists tokens: their kinds, and their texts if they have any, separated by bars.
+// The only texts that tokens of these kinds have.
+var onlyTexts = map[api.Kind]string{api.Period: ".", api.Pseudo: "=="}
+
+// show lists tokens: their kinds, and their texts unless they are the only ones of their kinds, separated by bars.
 func show(l []api.Token) string {
 	var out []string
 	for _, t := range l {
 		s := kinds[t.Kind]
-		if t.Text != "" {
+		if t.Text != onlyTexts[t.Kind] {
 			s += " " + t.Text
 		}
 		out = append(out, s)
@@ -226,12 +230,31 @@ func TestPseudos(t *testing.T) {
 	checkScan(t, "Pseudo|Pseudo|Word BY|Pseudo|Sign =|Pseudo", "====BY== = ==")
 	checkScan(t, "Pseudo|Sign =|Word A|Sign =|Word B", "===A=B")
 	checkScan(t, "Sign <=|Sign =|Sign >=|Sign =|Sign <=|Pseudo", "<== >== <===")
-	for _, text := range []string{"==", ".", "== . =="} {
-		l, _ := Scan(cards(text))
-		for _, x := range l {
-			if x.Text != "" {
-				t.Errorf("%q: the text %q", text, x.Text)
-			}
+}
+
+// The Text of a Period and of a Pseudo is what stands there, whatever stands around them.
+func TestTextsOfPeriodsAndPseudos(t *testing.T) {
+	for text, want := range map[string][]string{
+		".":                    {"."},
+		". . ":                 {".", "."},
+		"A.":                   {"A", "."},
+		"1.5. -.5.":            {"1.5", ".", "-.5", "."},
+		`"A.". B`:              {"A.", ".", "B"},
+		"A(1).":                {"A", "(", "1", ")", "."},
+		"PIC 9. PIC IS X(2).":  {"PIC", "9", ".", "PIC", "IS", "X(2)", "."},
+		"==":                   {"=="},
+		"==== ===":             {"==", "==", "==", "="},
+		"==a== by ==\"==\"==.": {"==", "A", "==", "BY", "==", "==", "==", "."},
+		"==PIC== PIC ==.":      {"==", "PIC", "==", "PIC", "==", "."},
+		"== . == . <==.":       {"==", ".", "==", ".", "<=", "=", "."},
+	} {
+		got, f := Scan(cards(text))
+		var texts []string
+		for _, x := range got {
+			texts = append(texts, x.Text)
+		}
+		if f != (api.Fault{}) || !slices.Equal(texts, want) {
+			t.Errorf("%q: %q, %v instead of %q", text, texts, f, want)
 		}
 	}
 }

@@ -91,9 +91,9 @@ func (s *scanner) read(rest string) (api.Token, int, api.Errno) {
 	case rest[0] == quote:
 		return literal(rest)
 	case rest[0] == point && isEnd(rest[1:]):
-		return api.Token{Kind: api.Period}, 1, api.OK
+		return api.Token{Kind: api.Period, Text: period}, len(period), api.OK
 	case strings.HasPrefix(rest, equals):
-		return api.Token{Kind: api.Pseudo}, len(equals), api.OK
+		return api.Token{Kind: api.Pseudo, Text: equals}, len(equals), api.OK
 	}
 	if n := numberLength(rest, s.isSeparated()); n > 0 {
 		return number(rest, n)

@@ -19,13 +19,14 @@ func TestText(t *testing.T) {
 		{nil, ""},
 		{[]api.Token{}, ""},
 		{[]api.Token{tok(api.Word, "MOVE")}, "MOVE"},
-		{[]api.Token{tok(api.Word, "MOVE"), tok(api.Number, "-1.50"), tok(api.Sign, "("), tok(api.Period, "")}, "MOVE -1.50 ( ."},
-		{[]api.Token{tok(api.Word, "PIC"), tok(api.Picture, "9(3)V99"), tok(api.Period, "")}, "PIC 9(3)V99 ."},
+		{[]api.Token{tok(api.Word, "MOVE"), tok(api.Number, "-1.50"), tok(api.Sign, "("), tok(api.Period, ".")}, "MOVE -1.50 ( ."},
+		{[]api.Token{tok(api.Word, "PIC"), tok(api.Picture, "9(3)V99"), tok(api.Period, ".")}, "PIC 9(3)V99 ."},
 		{[]api.Token{tok(api.Quote, "A"), tok(api.Quote, `B"C`), tok(api.Quote, `"`), tok(api.Quote, `""`)}, `"A" "B""C" """" """"""`},
-		{[]api.Token{tok(api.Pseudo, ""), tok(api.Word, "A"), tok(api.Pseudo, "")}, "== A =="},
+		{[]api.Token{tok(api.Pseudo, "=="), tok(api.Word, "A"), tok(api.Pseudo, "==")}, "== A =="},
 		// any tokens
 		{[]api.Token{tok(api.Quote, "")}, `""`},
 		{[]api.Token{tok(api.Period, "X"), tok(api.Pseudo, "Y")}, ". =="},
+		{[]api.Token{tok(api.Period, ""), tok(api.Pseudo, "")}, ". =="},
 		{[]api.Token{tok(api.Word, ""), tok(api.Word, `a "b`), tok(0, "Q"), tok(255, "\x00"), tok(api.Sign, "")}, " a \"b Q \x00 "},
 		{[]api.Token{{Kind: api.Word, Text: "A", At: pos(-1, 99), Left: true}, {}}, "A "},
 	} {
@@ -38,7 +39,7 @@ func TestText(t *testing.T) {
 // P3.3
 
 func TestSame(t *testing.T) {
-	a, one, p := tok(api.Word, "A"), tok(api.Number, "1"), tok(api.Period, "")
+	a, one, p := tok(api.Word, "A"), tok(api.Number, "1"), tok(api.Period, ".")
 	for _, x := range []struct {
 		a, b []api.Token
 		want bool
@@ -56,7 +57,8 @@ func TestSame(t *testing.T) {
 		{[]api.Token{a}, []api.Token{tok(api.Quote, "A")}, false},
 		{[]api.Token{one}, []api.Token{tok(api.Number, "01")}, false},
 		{[]api.Token{p}, []api.Token{tok(api.Period, "X")}, false},
-		{[]api.Token{p}, []api.Token{tok(api.Pseudo, "")}, false},
+		{[]api.Token{p}, []api.Token{tok(api.Period, "")}, false},
+		{[]api.Token{p}, []api.Token{tok(api.Pseudo, ".")}, false},
 		{[]api.Token{tok(99, "?")}, []api.Token{tok(99, "?")}, true},
 		{[]api.Token{tok(99, "?")}, []api.Token{tok(98, "?")}, false},
 	} {
@@ -71,7 +73,7 @@ func TestSame(t *testing.T) {
 func TestSplit(t *testing.T) {
 	a := api.Token{Kind: api.Word, Text: "A", At: pos(1, 8), Left: true}
 	b := api.Token{Kind: api.Number, Text: "1", At: pos(1, 10)}
-	p := api.Token{Kind: api.Period, At: pos(1, 11)}
+	p := api.Token{Kind: api.Period, Text: ".", At: pos(1, 11)}
 	odd := tok(api.Period, "X")
 	dot := tok(api.Quote, ".")
 	for _, x := range []struct {
@@ -102,7 +104,7 @@ func TestSplit(t *testing.T) {
 }
 
 func TestSplitKeepsNoMemory(t *testing.T) {
-	l := []api.Token{tok(api.Word, "A"), tok(api.Word, "B"), tok(api.Period, ""), tok(api.Word, "C")}
+	l := []api.Token{tok(api.Word, "A"), tok(api.Word, "B"), tok(api.Period, "."), tok(api.Word, "C")}
 	got := Split(l)
 	got[0][0].Text, got[1][0].Text = "X", "Y"
 	if Text(l) != "A B . C" {
